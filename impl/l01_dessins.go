@@ -334,19 +334,22 @@ func cycleType(p Places, n int64) []int64 {
 
 // isConnected takes forward steps from 0 alone: as Black and White are permutations, repeating
 // their steps leads back, too, so that this reaches what can be reached at all.
-func isConnected(d Dessin) bool {
-	reached := []byte{0}
-	found := [MaxDarts]bool{true}
+func isConnected(d Dessin) bool { return int64(len(dartsFrom(d, 0))) == d.Darts }
+
+// dartsFrom lists the darts in the order in which steps with Black, then White reach them from x.
+func dartsFrom(d Dessin, x byte) []byte {
+	reached := []byte{x}
+	var found [MaxDarts]bool
+	found[x] = true
 	for i := 0; i < len(reached); i++ {
-		x := reached[i]
-		for _, y := range [2]byte{d.Black[x], d.White[x]} {
+		for _, y := range [2]byte{d.Black[reached[i]], d.White[reached[i]]} {
 			if !found[y] {
 				found[y] = true
 				reached = append(reached, y)
 			}
 		}
 	}
-	return int64(len(reached)) == d.Darts
+	return reached
 }
 
 func face(d Dessin) Places { return undo(follow(d.Black, d.White, d.Darts), d.Darts) }

@@ -86,17 +86,24 @@ func joinsAll(d impl.Dessin) bool {
 	return class == impl.Places{}
 }
 
+// allDessins returns all dessins of n darts.
+func allDessins(n int64) []impl.Dessin {
+	var all []impl.Dessin
+	for _, black := range allPlaces(n) {
+		for _, white := range allPlaces(n) {
+			if d := (impl.Dessin{Darts: n, Black: black, White: white}); joinsAll(d) {
+				all = append(all, d)
+			}
+		}
+	}
+	return all
+}
+
 // sampleDessins returns all dessins of at most 4 darts, and some of each greater number.
 func sampleDessins() []impl.Dessin {
 	var sample []impl.Dessin
 	for n := int64(1); n <= 4; n++ {
-		for _, black := range allPlaces(n) {
-			for _, white := range allPlaces(n) {
-				if d := (impl.Dessin{Darts: n, Black: black, White: white}); joinsAll(d) {
-					sample = append(sample, d)
-				}
-			}
-		}
+		sample = append(sample, allDessins(n)...)
 	}
 	s := source(1)
 	for n := int64(5); n <= impl.MaxDarts; n++ {
