@@ -38,31 +38,15 @@ func leastBlockByHand(d impl.Dessin, group map[impl.Places]bool, x, y int64) []i
 				set = append(set, z)
 			}
 		}
-		if !slices.Contains(set, x) || !slices.Contains(set, y) || len(set) >= len(least) {
-			continue
+		isBlock := slices.Contains(set, x) && slices.Contains(set, y)
+		for p := range group {
+			isBlock = isBlock && staysOrLeaves(set, p)
 		}
-		if !parts(set, group) {
-			continue
+		if isBlock && len(set) < len(least) {
+			least = set
 		}
-		least = set
 	}
 	return least
-}
-
-// parts reports whether each permutation makes the same set or one without a common dart.
-func parts(set []int64, group map[impl.Places]bool) bool {
-	for p := range group {
-		common := 0
-		for _, z := range set {
-			if slices.Contains(set, int64(p[z])) {
-				common++
-			}
-		}
-		if common != 0 && common != len(set) {
-			return false
-		}
-	}
-	return true
 }
 
 // withBlocks returns the dessins of groupDessins of which each fifth one with many darts is kept.

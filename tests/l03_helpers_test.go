@@ -262,7 +262,7 @@ func setsByHand(d impl.Dessin, set []int64) [][]int64 {
 
 // isBlockByHand counts darts: sets without common darts have at most all darts together.
 func isBlockByHand(d impl.Dessin, set []int64) bool {
-	if d.Darts%int64(len(set)) != 0 || !leadsApart(d, set) {
+	if d.Darts%int64(len(set)) != 0 || !staysOrLeaves(set, d.Black) || !staysOrLeaves(set, d.White) {
 		return false
 	}
 	return len(setsByHand(d, set))*len(set) == int(d.Darts)
@@ -286,20 +286,15 @@ func allBlocks(d impl.Dessin) [][]int64 {
 	return blocks
 }
 
-// leadsApart tells most sets that are no blocks by one step with Black or White.
-func leadsApart(d impl.Dessin, set []int64) bool {
-	for _, p := range []impl.Places{d.Black, d.White} {
-		common := 0
-		for _, x := range set {
-			if slices.Contains(set, int64(p[x])) {
-				common++
-			}
-		}
-		if common != 0 && common != len(set) {
-			return false
+// staysOrLeaves reports whether p makes the same set of it or one without a common dart.
+func staysOrLeaves(set []int64, p impl.Places) bool {
+	common := 0
+	for _, x := range set {
+		if slices.Contains(set, int64(p[x])) {
+			common++
 		}
 	}
-	return true
+	return common == 0 || common == len(set)
 }
 
 // blocksWith lists those of all blocks, and of the sets that the group makes of them, with a dart.
